@@ -1,0 +1,44 @@
+// Package cleave tells where texts break, by rules: see DOC.md.
+package cleave
+
+// Errno is what a call answers: OK or the reason for a refusal.
+type Errno int
+
+const (
+	OK       Errno = 0
+	ErrLong  Errno = 1 // above a bound
+	ErrForm  Errno = 2 // no rules
+	ErrDeep  Errno = 3 // too deep
+	ErrMany  Errno = 4 // too many classes, ranges, rules or places
+	ErrTwice Errno = 5 // a class that is there already
+	ErrName  Errno = 6 // a class that is nowhere
+	ErrRange Errno = 7 // a rune or range that may not be
+	ErrTable Errno = 8 // no table
+)
+
+// Check tells whether a text is rules (P3).
+func Check(rules string) (Errno, int) {
+	if len(rules) > maxRules {
+		return ErrLong, 0
+	}
+	found := readRules(rules)
+	return found.reason, found.at
+}
+
+// Table is what rules say. Make it by Compile or Decode.
+type Table struct{}
+
+// Compile makes a table of rules (P5).
+func Compile(rules string) (*Table, Errno, int) { return nil, OK, 0 }
+
+// Decode reads a table's text (P8).
+func Decode(text string) (*Table, Errno) { return nil, OK }
+
+// Encode writes a table (P8).
+func (t *Table) Encode() string { return "" }
+
+// States tells how many there are (P6).
+func (t *Table) States() int { return 0 }
+
+// Breaks tells where a text breaks (P7).
+func (t *Table) Breaks(text string) ([]int, Errno) { return nil, OK }
