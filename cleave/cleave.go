@@ -18,18 +18,18 @@ const (
 
 // Check tells whether a text is rules (P3).
 func Check(rules string) (Errno, int) {
-	if len(rules) > maxRules {
-		return ErrLong, 0
-	}
-	found := readRules(rules)
+	_, found := readRules(rules)
 	return found.reason, found.at
 }
 
-// Table is what rules say. Make it by Compile or Decode.
-type Table struct{}
-
 // Compile makes a table of rules (P5).
-func Compile(rules string) (*Table, Errno, int) { return nil, OK, 0 }
+func Compile(rules string) (*Table, Errno, int) {
+	said, found := readRules(rules)
+	if found.reason != OK {
+		return nil, found.reason, found.at
+	}
+	return tableOf(said), OK, 0
+}
 
 // Decode reads a table's text (P8).
 func Decode(text string) (*Table, Errno) { return nil, OK }
@@ -41,4 +41,9 @@ func (t *Table) Encode() string { return "" }
 func (t *Table) States() int { return 0 }
 
 // Breaks tells where a text breaks (P7).
-func (t *Table) Breaks(text string) ([]int, Errno) { return nil, OK }
+func (t *Table) Breaks(text string) ([]int, Errno) {
+	if len(text) > maxText {
+		return nil, ErrLong
+	}
+	return t.breaksOf(text), OK
+}

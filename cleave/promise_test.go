@@ -1,6 +1,8 @@
 package cleave_test
 
 import (
+	"fmt"
+	"slices"
 	"strings"
 	"sync"
 	"testing"
@@ -48,9 +50,144 @@ func TestEveryCallEnds(t *testing.T) {
 		if at == len(rules) && at > 0 && e != cleave.ErrForm {
 			t.Errorf("P1: Check(%q) = %d, %d: nothing stands at that place", rules, e, at)
 		}
-		cleave.Compile(rules)
 		cleave.Decode(rules)
 	})
+}
+
+// P5: Compile has Check's error and place, and a table only without one.
+func TestCompileAnswersAsCheck(t *testing.T) {
+	tables, errors := 0, 0
+	same := func(rules string) {
+		e, at := cleave.Check(rules)
+		table, got, place := cleave.Compile(rules)
+		if got != e || place != at || (table != nil) != (e == cleave.OK) {
+			t.Errorf("P5: Compile(%q) = %v, %d, %d, but Check answers %d, %d", rules, table, got, place, e, at)
+		}
+		if table != nil {
+			tables++
+		} else {
+			errors++
+		}
+	}
+	damaged(same)
+	for _, rules := range []string{"", " ", strings.Repeat(" ", 400), strings.Repeat(" ", 401), strings.Repeat("x", 1<<20)} {
+		same(rules)
+	}
+	if tables < 100 || errors < 100 {
+		t.Errorf("P5: only %d tables and %d errors were seen", tables, errors)
+	}
+}
+
+// P5: some errors of Compile written out, one of each kind.
+func TestCompileErrors(t *testing.T) {
+	for _, want := range []answer{
+		{strings.Repeat("~.;", 134), cleave.ErrLong, 0},
+		{"Any ~", cleave.ErrForm, 5},
+		{"class A='a", cleave.ErrForm, 8},
+		{"class A='a';((((((A))))))~A;", cleave.ErrDeep, 17},
+		{". . . . . . . . .~.;", cleave.ErrMany, 16},
+		{eightRules + "~.;", cleave.ErrMany, 24},
+		{"class A='a';class A='a';", cleave.ErrTwice, 18},
+		{"class A='a';A~.;B~.;", cleave.ErrName, 16},
+		{"class A='b'-'a';A~A;", cleave.ErrRange, 12},
+	} {
+		if table, e, at := cleave.Compile(want.rules); table != nil || e != want.e || at != want.at {
+			t.Errorf("P5: Compile(%q) = %v, %d, %d, want nil, %d, %d", want.rules, table, e, at, want.e, want.at)
+		}
+	}
+}
+
+// everyText hands over texts of every kind: broken UTF-8 too.
+func everyText(use func(text string)) {
+	damaged(func(text string) { use(text[:min(len(text), 200)]) })
+	for a := range 256 {
+		for _, b := range []byte{0, 'a', 0x7f, 0x80, 0xa0, 0xbf, 0xc3, 0xe2, 0xf0, 0xff} {
+			use(string([]byte{byte(a), b}))
+			use(string([]byte{'a', byte(a), b, 0x80, 'b'}))
+		}
+	}
+}
+
+// P7: places rise, and a rune begins at each of them, though none at 0.
+func TestPlacesOfBreaks(t *testing.T) {
+	words := compiled(t, "class A = 'a'-'z'; class N = '0'-'9'; A ~ A; N ~ N; A N* ~ A;")
+	each := compiled(t, "/.;")
+	everyText(func(text string) {
+		var begins []int
+		for at := range text {
+			begins = append(begins, at)
+		}
+		if all, e := each.Breaks(text); len(text) > 0 && !slices.Equal(all, begins[1:]) || e != cleave.OK {
+			t.Errorf("P7: Breaks(%q) = %v, %d, want all but the first of %v", text, all, e, begins)
+		}
+		some, e := words.Breaks(text)
+		ahead := 0
+		for _, at := range some {
+			if at <= ahead || !slices.Contains(begins, at) {
+				t.Errorf("P7: Breaks(%q) = %v, %d", text, some, e)
+			}
+			ahead = at
+		}
+	})
+}
+
+// P1, P2: what a table answers is new memory, and a change of it changes no
+// answer that follows, nor one ahead of it.
+func TestAnswersAreNewMemory(t *testing.T) {
+	rules := "class A = 'a'-'z'; A ~ A;"
+	table := compiled(t, rules)
+	twin := compiled(t, rules)
+	want := []int{2, 3, 4}
+	first, _ := table.Breaks("ab12c")
+	second, _ := table.Breaks("ab12c")
+	third, _ := twin.Breaks("ab12c")
+	clear(first[:cap(first)])
+	_ = append(second[:1], 77, 77)
+	fourth, _ := table.Breaks("ab12c")
+	if !slices.Equal(third, want) || !slices.Equal(fourth, want) || second[0] != 2 {
+		t.Errorf("P1: answers share memory: %v, %v, %v, want %v", second, third, fourth, want)
+	}
+	if table == twin {
+		t.Errorf("P1: Compile answered one table twice")
+	}
+}
+
+// P2: a table answers as at first, whatever was asked of it and of others, and
+// at the same time.
+func TestTableDoesNotChange(t *testing.T) {
+	rules := []string{
+		"class A = 'a'-'z'; class N = '0'-'9'; A ~ A; N ~ N; A N* ~ A;",
+		"class A='a';(A A)+/A;A~A;~Any;",
+		"class M=0x80-0x10ffff;class A='a'-'z';M . .|A/.;~[^M];",
+	}
+	var texts []string
+	everyText(func(text string) { texts = append(texts, text) })
+	texts = append(texts, strings.Repeat("a", 201))
+	breaks := func(table *cleave.Table) string {
+		var answers strings.Builder
+		for _, text := range texts {
+			places, e := table.Breaks(text)
+			fmt.Fprintln(&answers, places, e)
+		}
+		return answers.String()
+	}
+	var all sync.WaitGroup
+	for _, one := range rules {
+		table := compiled(t, one)
+		want := breaks(compiled(t, one))
+		for range 3 {
+			all.Add(1)
+			go func() {
+				defer all.Done()
+				cleave.Check("class B='b';B~B;")
+				cleave.Compile("class C='c';.C~C;")
+				if breaks(table) != want {
+					t.Errorf("P2: a table of %q answers one way and another", one)
+				}
+			}()
+		}
+	}
+	all.Wait()
 }
 
 // P1: too long a string is found out by its length, whatever else is wrong.
@@ -64,6 +201,9 @@ func TestLengthComesFirst(t *testing.T) {
 	long := strings.Repeat("~.;\n", 1<<20)
 	if n := testing.AllocsPerRun(10, func() { cleave.Check(long) }); n != 0 {
 		t.Errorf("P1: Check of too long rules took memory %v times", n)
+	}
+	if n := testing.AllocsPerRun(10, func() { cleave.Compile(long) }); n != 0 {
+		t.Errorf("P1: Compile of too long rules took memory %v times", n)
 	}
 }
 

@@ -21,16 +21,19 @@ const anyName = "Any"
 // reader goes through rules token by token. What is wrong with a token is
 // found out ahead of reading the next one, as the leftmost error is the answer.
 type reader struct {
-	text    string
-	now     token
-	classes []string // their names
-	lines   int      // rules begun
-	places  int      // sets of lefts begun
-	deep    int      // `(` that are open
+	text  string
+	now   token
+	names []string // of classes
+	deep  int      // `(` that are open
+	said  meaning
 }
 
-// readRules tells what is wrong with rules: OK and 0, if nothing is.
-func readRules(text string) (found fault) {
+// readRules tells what rules say, or what is wrong with them: OK and 0, if
+// nothing is.
+func readRules(text string) (said meaning, found fault) {
+	if len(text) > maxRules {
+		return meaning{}, fault{ErrLong, 0}
+	}
 	defer func() {
 		// Whatever is no fault is the program's own error, and must not pass for OK.
 		if stop := recover(); stop != nil {
@@ -44,7 +47,7 @@ func readRules(text string) (found fault) {
 	for r.now.kind != endToken {
 		r.readRule()
 	}
-	return fault{OK, 0}
+	return r.said, fault{OK, 0}
 }
 
 // refuseIf gives the rules up at the token, if there is a reason.
@@ -65,41 +68,48 @@ func (r *reader) passSign(signs string) {
 	r.step()
 }
 
-// isKnown tells whether a name may stand in a set.
-func (r *reader) isKnown(name string) bool {
-	return name == anyName || slices.Contains(r.classes, name)
+// classOf tells the number of the class that has a name, or -1. Any is behind
+// all the others.
+func (r *reader) classOf(name string) int {
+	if name == anyName {
+		return len(r.names)
+	}
+	return slices.Index(r.names, name)
 }
 
 func (r *reader) readClass() {
 	r.step()
 	r.readClassName()
 	r.passSign("=")
-	r.readRanges()
+	r.said.classes = append(r.said.classes, r.readRanges())
 	r.passSign(";")
 }
 
 func (r *reader) readClassName() {
 	r.refuseIf(r.now.kind != nameToken, ErrForm)
-	r.refuseIf(r.isKnown(r.now.text), ErrTwice)
-	r.refuseIf(len(r.classes) == maxClasses, ErrMany)
-	r.classes = append(r.classes, r.now.text)
+	r.refuseIf(r.classOf(r.now.text) >= 0, ErrTwice)
+	r.refuseIf(len(r.names) == maxClasses, ErrMany)
+	r.names = append(r.names, r.now.text)
 	r.step()
 }
 
-func (r *reader) readRanges() {
+func (r *reader) readRanges() []span {
 	r.refuseIf(r.now.kind != runeToken, ErrForm)
-	for count := 0; r.now.kind == runeToken; count++ {
-		r.refuseIf(count == maxRanges, ErrMany)
-		r.readRange()
+	var spans []span
+	for r.now.kind == runeToken {
+		r.refuseIf(len(spans) == maxRanges, ErrMany)
+		spans = append(spans, r.readRange())
 	}
+	return spans
 }
 
-func (r *reader) readRange() {
+func (r *reader) readRange() span {
 	low := r.readRune(0)
-	if r.now.sees("-") {
-		r.step()
-		r.readRune(low)
+	if !r.now.sees("-") {
+		return span{low, low}
 	}
+	r.step()
+	return span{low, r.readRune(low)}
 }
 
 // readRune reads a rune that must not be below the lowest.
@@ -113,88 +123,109 @@ func (r *reader) readRune(lowest rune) rune {
 
 func (r *reader) readRule() {
 	r.refuseIf(!r.beginsPart() && !r.now.sees("~/"), ErrForm)
-	r.refuseIf(r.lines == maxLines, ErrMany)
-	r.lines++
+	r.refuseIf(len(r.said.rules) == maxLines, ErrMany)
+	// A rule without left counts always, as one does whose left may be nothing.
+	read := rule{left: left{nothing: true}}
 	if r.beginsPart() {
-		r.readLeft()
+		read.left = r.readLeft()
 	}
+	read.breaks = r.now.sees("/")
 	r.passSign("~/")
-	r.readSet()
+	read.behind = r.readSet()
 	r.passSign(";")
+	r.said.rules = append(r.said.rules, read)
 }
 
-func (r *reader) readLeft() {
-	r.readRow()
+func (r *reader) readLeft() left {
+	read := r.readRow()
 	for r.now.sees("|") {
 		r.step()
-		r.readRow()
+		read = either(read, r.readRow())
 	}
+	return read
 }
 
-func (r *reader) readRow() {
-	r.readPart()
+func (r *reader) readRow() left {
+	read := r.readPart()
 	for r.beginsPart() {
-		r.readPart()
+		read = r.said.join(read, r.readPart())
 	}
+	return read
 }
 
-func (r *reader) readPart() {
+func (r *reader) readPart() left {
+	var read left
 	if r.now.sees("(") {
-		r.readGroup()
+		read = r.readGroup()
 	} else {
-		r.readPlace()
+		read = r.readPlace()
 	}
 	for r.now.sees("*+?") {
+		read = r.said.repeat(read, r.now.text)
 		r.step()
 	}
+	return read
 }
 
-func (r *reader) readGroup() {
+func (r *reader) readGroup() left {
 	r.refuseIf(r.deep == maxDeep, ErrDeep)
 	r.deep++
 	r.step()
-	r.readLeft()
+	read := r.readLeft()
 	r.passSign(")")
 	r.deep--
+	return read
 }
 
 // readPlace reads a set of a left.
-func (r *reader) readPlace() {
+func (r *reader) readPlace() left {
 	r.refuseIf(!r.beginsSet(), ErrForm)
-	r.refuseIf(r.places == maxPlaces, ErrMany)
-	r.places++
-	r.readSet()
+	r.refuseIf(len(r.said.places) == maxPlaces, ErrMany)
+	return r.said.addPlace(r.readSet())
 }
 
-func (r *reader) readSet() {
+// allClasses is what `.` stands for: the classes, and Any.
+func (r *reader) allClasses() set {
+	return below(len(r.names) + 1)
+}
+
+func (r *reader) readSet() set {
 	switch {
 	case r.now.sees("."):
 		r.step()
+		return r.allClasses()
 	case r.now.sees("["):
-		r.readNames()
+		return r.readNames()
 	default:
-		r.readName()
+		return r.readName()
 	}
 }
 
 // readNames reads a set between brackets.
-func (r *reader) readNames() {
+func (r *reader) readNames() set {
 	r.step()
-	if r.now.sees("^") {
+	others := r.now.sees("^")
+	if others {
 		r.step()
 	}
-	r.readName()
+	named := r.readName()
 	for r.now.kind == nameToken {
-		r.readName()
+		named |= r.readName()
 	}
 	r.passSign("]")
+	if others {
+		return r.allClasses() &^ named
+	}
+	return named
 }
 
 // readName reads a name in a set.
-func (r *reader) readName() {
+func (r *reader) readName() set {
 	r.refuseIf(r.now.kind != nameToken, ErrForm)
-	r.refuseIf(!r.isKnown(r.now.text), ErrName)
+	class := r.classOf(r.now.text)
+	r.refuseIf(class < 0, ErrName)
 	r.step()
+	return only(class)
 }
 
 func (r *reader) beginsSet() bool {
