@@ -32,13 +32,22 @@ func Compile(rules string) (*Table, Errno, int) {
 }
 
 // Decode reads a table's text (P8).
-func Decode(text string) (*Table, Errno) { return nil, OK }
+func Decode(text string) (*Table, Errno) {
+	if len(text) > maxTable {
+		return nil, ErrLong
+	}
+	read := readTable(text)
+	if read == nil {
+		return nil, ErrTable
+	}
+	return read, OK
+}
 
 // Encode writes a table (P8).
-func (t *Table) Encode() string { return "" }
+func (t *Table) Encode() string { return t.written() }
 
 // States tells how many there are (P6).
-func (t *Table) States() int { return 0 }
+func (t *Table) States() int { return len(t.states) }
 
 // Breaks tells where a text breaks (P7).
 func (t *Table) Breaks(text string) ([]int, Errno) {

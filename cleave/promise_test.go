@@ -6,6 +6,7 @@ import (
 	"strings"
 	"sync"
 	"testing"
+	"unsafe"
 
 	"cleave/cleave"
 )
@@ -50,7 +51,7 @@ func TestEveryCallEnds(t *testing.T) {
 		if at == len(rules) && at > 0 && e != cleave.ErrForm {
 			t.Errorf("P1: Check(%q) = %d, %d: nothing stands at that place", rules, e, at)
 		}
-		cleave.Decode(rules)
+		expectNoTable(t, rules)
 	})
 }
 
@@ -135,21 +136,56 @@ func TestPlacesOfBreaks(t *testing.T) {
 // answer that follows, nor one ahead of it.
 func TestAnswersAreNewMemory(t *testing.T) {
 	rules := "class A = 'a'-'z'; A ~ A;"
-	table := compiled(t, rules)
-	twin := compiled(t, rules)
-	want := []int{2, 3, 4}
-	first, _ := table.Breaks("ab12c")
-	second, _ := table.Breaks("ab12c")
-	third, _ := twin.Breaks("ab12c")
-	clear(first[:cap(first)])
-	_ = append(second[:1], 77, 77)
-	fourth, _ := table.Breaks("ab12c")
-	if !slices.Equal(third, want) || !slices.Equal(fourth, want) || second[0] != 2 {
-		t.Errorf("P1: answers share memory: %v, %v, %v, want %v", second, third, fourth, want)
+	text := compiled(t, rules).Encode()
+	for _, tables := range [][2]*cleave.Table{
+		{compiled(t, rules), compiled(t, rules)},
+		{decoded(t, text), decoded(t, text)},
+	} {
+		table, twin := tables[0], tables[1]
+		want := []int{2, 3, 4}
+		first, _ := table.Breaks("ab12c")
+		second, _ := table.Breaks("ab12c")
+		third, _ := twin.Breaks("ab12c")
+		clear(first[:cap(first)])
+		_ = append(second[:1], 77, 77)
+		fourth, _ := table.Breaks("ab12c")
+		if !slices.Equal(third, want) || !slices.Equal(fourth, want) || second[0] != 2 {
+			t.Errorf("P1: answers share memory: %v, %v, %v, want %v", second, third, fourth, want)
+		}
+		if table == twin {
+			t.Errorf("P1: one table was answered twice")
+		}
+		if one, other := table.Encode(), table.Encode(); unsafe.StringData(one) == unsafe.StringData(other) {
+			t.Errorf("P1: Encode answered the same memory twice")
+		}
 	}
-	if table == twin {
-		t.Errorf("P1: Compile answered one table twice")
+}
+
+// P1: a table has no part of the string that it was made of, which may be
+// memory that changes.
+func TestTablesKeepNoString(t *testing.T) {
+	rules := []byte("class Aa9 = 'a'-'z' 'é'; class N = 0x30-0x39; Aa9 ~ Aa9; N Aa9* / [^N]; ~ .;")
+	made := compiled(t, unsafe.String(&rules[0], len(rules)))
+	want := made.Encode()
+	text := []byte(want)
+	read := decoded(t, unsafe.String(&text[0], len(text)))
+	clear(rules)
+	clear(text)
+	if got, again := made.Encode(), read.Encode(); got != want || again != want {
+		t.Errorf("P1: tables hang on memory that changed: %q, %q, want %q", got, again, want)
 	}
+}
+
+// answersOf tells all that a table answers to texts.
+func answersOf(table *cleave.Table, texts []string) string {
+	var answers strings.Builder
+	fmt.Fprintln(&answers, table.States(), table.Encode())
+	for _, text := range texts {
+		places, e := table.Breaks(text)
+		fmt.Fprintln(&answers, places, e)
+	}
+	fmt.Fprintln(&answers, table.States(), table.Encode())
+	return answers.String()
 }
 
 // P2: a table answers as at first, whatever was asked of it and of others, and
@@ -163,25 +199,20 @@ func TestTableDoesNotChange(t *testing.T) {
 	var texts []string
 	everyText(func(text string) { texts = append(texts, text) })
 	texts = append(texts, strings.Repeat("a", 201))
-	breaks := func(table *cleave.Table) string {
-		var answers strings.Builder
-		for _, text := range texts {
-			places, e := table.Breaks(text)
-			fmt.Fprintln(&answers, places, e)
-		}
-		return answers.String()
-	}
 	var all sync.WaitGroup
 	for _, one := range rules {
 		table := compiled(t, one)
-		want := breaks(compiled(t, one))
+		read := decoded(t, table.Encode())
+		want := answersOf(compiled(t, one), texts)
 		for range 3 {
 			all.Add(1)
 			go func() {
 				defer all.Done()
 				cleave.Check("class B='b';B~B;")
 				cleave.Compile("class C='c';.C~C;")
-				if breaks(table) != want {
+				cleave.Decode("cleave 1 2\n61-61\n1/ 0/\n1~ 0/\n")
+				cleave.Decode("cleave 1 2\n61-61\n1/ 0/\n1/ 0/\n")
+				if answersOf(table, texts) != want || answersOf(read, texts) != want {
 					t.Errorf("P2: a table of %q answers one way and another", one)
 				}
 			}()

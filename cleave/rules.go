@@ -1,9 +1,6 @@
 package cleave
 
-import (
-	"slices"
-	"unicode/utf8"
-)
+import "slices"
 
 const (
 	maxRules   = 400 // bytes of rules
@@ -116,7 +113,7 @@ func (r *reader) readRange() span {
 func (r *reader) readRune(lowest rune) rune {
 	r.refuseIf(r.now.kind != runeToken, ErrForm)
 	value := r.now.value
-	r.refuseIf(value < lowest || !utf8.ValidRune(value), ErrRange)
+	r.refuseIf(!mayBe(value, lowest), ErrRange)
 	r.step()
 	return value
 }

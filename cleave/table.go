@@ -62,11 +62,11 @@ func tableOf(said meaning) *Table {
 	for _, one := range said.rules {
 		m.begin |= one.left.first
 	}
-	made := &Table{classes: said.classes}
+	var states [][]arrow
 	for n := 0; n < len(m.met); n++ {
-		made.states = append(made.states, m.arrowsFrom(m.met[n]))
+		states = append(states, m.arrowsFrom(m.met[n]))
 	}
-	return made
+	return &Table{said.classes, fewest(states)}
 }
 
 func (m *maker) arrowsFrom(state set) []arrow {

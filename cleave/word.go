@@ -1,6 +1,9 @@
 package cleave
 
-import "strconv"
+import (
+	"strconv"
+	"unicode/utf8"
+)
 
 // What a byte may be in a word; a byte may be several of these.
 const (
@@ -73,4 +76,10 @@ func runeOfWord(word string) (rune, bool) {
 	}
 	value, err := strconv.ParseUint(digits, 16, 32)
 	return rune(value), err == nil
+}
+
+// mayBe tells whether a class may have a rune that must not be below the
+// lowest.
+func mayBe(r, lowest rune) bool {
+	return r >= lowest && utf8.ValidRune(r)
 }
